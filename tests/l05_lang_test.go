@@ -312,6 +312,23 @@ func shortTexts(letters string, most int) []string {
 	return all
 }
 
+// rowsOf holds all rows of some things, up to a count of them.
+func rowsOf[T any](things []T, most int) [][]T {
+	var all [][]T
+	rows := [][]T{nil}
+	for range most {
+		var next [][]T
+		for _, row := range rows {
+			for _, thing := range things {
+				next = append(next, append(slices.Clone(row), thing))
+			}
+		}
+		all = append(all, next...)
+		rows = next
+	}
+	return all
+}
+
 // meetingPatterns holds all patterns of some atoms whose classes meet, up to a count of atoms.
 func meetingPatterns(most int) [][]impl.Atom {
 	var atoms []impl.Atom
@@ -320,19 +337,7 @@ func meetingPatterns(most int) [][]impl.Atom {
 			atoms = append(atoms, impl.Atom{Class: class, Least: pair[0], Most: pair[1]})
 		}
 	}
-	var all [][]impl.Atom
-	row := [][]impl.Atom{nil}
-	for range most {
-		var next [][]impl.Atom
-		for _, p := range row {
-			for _, a := range atoms {
-				next = append(next, append(slices.Clone(p), a))
-			}
-		}
-		all = append(all, next...)
-		row = next
-	}
-	return all
+	return rowsOf(atoms, most)
 }
 
 func TestMeaningByEachWayToCut(t *testing.T) {
