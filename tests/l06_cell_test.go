@@ -191,6 +191,15 @@ func longRows() [][]impl.Cell {
 	return all
 }
 
+// runRow is a row of 60 cells with one run that is Skip.
+func runRow(first int, last int) []impl.Cell {
+	row := sameCell(mostCells, cell("a", ""))
+	for i := first; i <= last; i++ {
+		row[i].Skip = true
+	}
+	return row
+}
+
 // wrongRow is a row that is not right, and why.
 type wrongRow struct {
 	what  string
@@ -518,10 +527,7 @@ func TestMasksOfLongRows(t *testing.T) {
 	}
 	for first := range mostCells {
 		for last := first; last < mostCells; last++ {
-			row := sameCell(mostCells, cell("a", ""))
-			for i := first; i <= last; i++ {
-				row[i].Skip = true
-			}
+			row := runRow(first, last)
 			wantMasks(t, rowText(row), impl.MasksOf(row), plainMasks(row))
 		}
 	}
