@@ -661,20 +661,25 @@ func TestMasksAndVecsAreNewMemory(t *testing.T) {
 	}
 }
 
-// What is made once is made once of a row, not of the program: rows that are asked in turn must not see each other.
-func TestRowsAreAskedInTurn(t *testing.T) {
-	rows := longRows()[:200]
+// askInTurn asks of rows from four goroutines at once, each of which comes to them from another one on.
+func askInTurn(rows [][]impl.Cell, ask func(row []impl.Cell)) {
 	var all sync.WaitGroup
 	for from := range 4 {
 		all.Go(func() {
 			for i := range rows {
-				row := rows[(i*7+from)%len(rows)]
-				wantVec(t, "ByteVec of "+rowText(row), impl.ByteVec(row, 'b'), plainByteVec(row, 'b', false))
-				wantVec(t, "LoopVec of "+rowText(row), impl.LoopVec(row, 'b'), plainByteVec(row, 'b', true))
+				ask(rows[(i*7+from)%len(rows)])
 			}
 		})
 	}
 	all.Wait()
+}
+
+// What is made once is made once of a row, not of the program: rows that are asked in turn must not see each other.
+func TestRowsAreAskedInTurn(t *testing.T) {
+	askInTurn(longRows()[:200], func(row []impl.Cell) {
+		wantVec(t, "ByteVec of "+rowText(row), impl.ByteVec(row, 'b'), plainByteVec(row, 'b', false))
+		wantVec(t, "LoopVec of "+rowText(row), impl.LoopVec(row, 'b'), plainByteVec(row, 'b', true))
+	})
 	first, second := cellsBy("a"), cellsBy("b")
 	for range 2 {
 		wantCellsFit(t, first, "a", true)

@@ -6,7 +6,6 @@ import (
 	"slices"
 	"strconv"
 	"strings"
-	"sync"
 	"testing"
 
 	"loop.example/g00736/impl"
@@ -623,20 +622,12 @@ func TestStepsAreNewMemory(t *testing.T) {
 
 // Where one walk stands must be seen by no other.
 func TestWalksAreGoneInTurn(t *testing.T) {
-	rows := longRows()[:120]
-	var all sync.WaitGroup
-	for from := range 4 {
-		all.Go(func() {
-			for i := range rows {
-				row := rows[(i*7+from)%len(rows)]
-				v := placesVec(len(row), 0, len(row))
-				if got, want := impl.StepOn(row, v, 'b'), plainStep(row, v, 'b'); got.Hit != want.Hit || !sameVec(got.Vec, want.Vec) {
-					t.Errorf("StepOn %s: got %+v, want %+v", rowText(row), got, want)
-				}
-			}
-		})
-	}
-	all.Wait()
+	askInTurn(longRows()[:120], func(row []impl.Cell) {
+		v := placesVec(len(row), 0, len(row))
+		if got, want := impl.StepOn(row, v, 'b'), plainStep(row, v, 'b'); got.Hit != want.Hit || !sameVec(got.Vec, want.Vec) {
+			t.Errorf("StepOn %s: got %+v, want %+v", rowText(row), got, want)
+		}
+	})
 	first, second := cellsBy("a", "b"), cellsBy("b", "a?")
 	for range 2 {
 		wantPlaces(t, "the first row", impl.RunOn(first, "a"), nil)
